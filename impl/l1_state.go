@@ -30,6 +30,12 @@ type State struct {
 // standing is how many trains stand on each section; an array, so that a copy of it is a copy of all counts.
 type standing [MaxSections]int
 
+// progress is how far each train of a first state has come: how many moves it has done. One that has left has done one
+// more than its Path is long. A struct with an array can be the key of a map, which a State cannot.
+type progress struct {
+	done [MaxTrains]int8
+}
+
 // StateOk asks in the order of the codes: each check leans on the ones before it, so that none reaches outside a list.
 func StateOk(s State) int {
 	switch {
@@ -60,7 +66,7 @@ func Moves(s State) []int {
 	}
 	var movers []int
 	for i, name := range s.Names {
-		if canMove(s, i) {
+		if canMove(s, progress{}, i) {
 			movers = append(movers, name)
 		}
 	}
@@ -72,10 +78,10 @@ func Step(s State, train int) State {
 		return State{}
 	}
 	mover := slices.Index(s.Names, train)
-	if mover < 0 || !canMove(s, mover) {
+	if mover < 0 || !canMove(s, progress{}, mover) {
 		return State{}
 	}
-	return moved(s, mover)
+	return stateBehind(s, progress{}.moved(mover))
 }
 
 func sizesOk(s State) bool {
@@ -146,25 +152,52 @@ func standingOf(trains []Train) standing {
 	return on
 }
 
-// canMove is for a state that is right and a train that is there, by its place in the list.
-func canMove(s State, mover int) bool {
-	path := s.Trains[mover].Path
-	return len(path) == 0 || standingOf(s.Trains)[path[0]] < s.Room[path[0]]
+// moved counts on a copy: the progress ahead of the move stays as it is.
+func (p progress) moved(mover int) progress {
+	p.done[mover]++
+	return p
 }
 
-// moved copies every list, even the ones that stay as they are: an answer shares no memory with an argument.
-func moved(s State, mover int) State {
-	behind := State{Room: copied(s.Room)}
-	for i, t := range s.Trains {
-		if i == mover {
-			if len(t.Path) == 0 {
-				continue
-			}
-			t.At, t.Path = t.Path[0], t.Path[1:]
+func (p progress) hasLeft(t Train, index int) bool { return int(p.done[index]) > len(t.Path) }
+
+// trainBehind is for a train that has not left; its Path is a piece of the first one yet.
+func (p progress) trainBehind(t Train, index int) Train {
+	if done := p.done[index]; done > 0 {
+		t.At, t.Path = t.Path[done-1], t.Path[done:]
+	}
+	return t
+}
+
+// canMove is for a first state that is right and a train of it, by its place in the list.
+func canMove(first State, p progress, mover int) bool {
+	if p.hasLeft(first.Trains[mover], mover) {
+		return false
+	}
+	path := p.trainBehind(first.Trains[mover], mover).Path
+	return len(path) == 0 || countOn(first, p, path[0]) < first.Room[path[0]]
+}
+
+func countOn(first State, p progress, section int) int {
+	count := 0
+	for i, t := range first.Trains {
+		if !p.hasLeft(t, i) && p.trainBehind(t, i).At == section {
+			count++
 		}
+	}
+	return count
+}
+
+// stateBehind copies every list, even the ones that stay as they are: an answer shares no memory with an argument.
+func stateBehind(first State, p progress) State {
+	behind := State{Room: copied(first.Room)}
+	for i, t := range first.Trains {
+		if p.hasLeft(t, i) {
+			continue
+		}
+		t = p.trainBehind(t, i)
 		t.Path = copied(t.Path)
 		behind.Trains = append(behind.Trains, t)
-		behind.Names = append(behind.Names, s.Names[i])
+		behind.Names = append(behind.Names, first.Names[i])
 	}
 	return behind
 }

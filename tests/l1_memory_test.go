@@ -7,22 +7,27 @@ import (
 	"loop.example/regulator/impl"
 )
 
-// roomy is yard with spare memory behind every list, filled with a mark, and with two trains that share one Path:
-// whoever appends to a list of the argument writes over a mark.
 const mark = 77
 
 func roomyInts(list []int) []int {
 	return append(slices.Clone(list), mark, mark, mark)[:len(list)]
 }
 
-func roomy() impl.State {
-	s := yard()
+// spaced has spare memory behind every list, filled with a mark: whoever appends to a list of the argument writes over
+// one.
+func spaced(s impl.State) impl.State {
 	s.Room, s.Names = roomyInts(s.Room), roomyInts(s.Names)
 	for i := range s.Trains {
 		s.Trains[i].Path = roomyInts(s.Trains[i].Path)
 	}
-	s.Trains[3] = impl.Train{At: 2, Path: s.Trains[2].Path, Weight: 8}
 	s.Trains = append(s.Trains, impl.Train{At: mark})[:len(s.Trains)]
+	return s
+}
+
+// roomy is such a yard, with two trains that share one Path.
+func roomy() impl.State {
+	s := spaced(yard())
+	s.Trains[3] = impl.Train{At: 2, Path: s.Trains[2].Path, Weight: 8}
 	return s
 }
 
