@@ -152,6 +152,15 @@ func standingOf(trains []Train) standing {
 	return on
 }
 
+// endOf is the progress behind which all have left: each train has done its Path and one move more.
+func endOf(first State) progress {
+	var end progress
+	for i, t := range first.Trains {
+		end.done[i] = int8(len(t.Path) + 1)
+	}
+	return end
+}
+
 // moved counts on a copy: the progress ahead of the move stays as it is.
 func (p progress) moved(mover int) progress {
 	p.done[mover]++

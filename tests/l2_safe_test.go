@@ -217,9 +217,9 @@ func checkUnsafe(t *testing.T, name string, s impl.State) {
 	}
 }
 
-// Each fault is laid into a state in which nobody can move, and into one in which all can.
-func TestNoSafetyInAStateThatIsNotRight(t *testing.T) {
-	for code, faults := range map[int][]func(s *impl.State){
+// faults is what makes a state of two trains or more, on sections 0 and 1, not right, by the codes.
+func faults() map[int][]func(s *impl.State) {
+	return map[int][]func(s *impl.State){
 		1: {
 			func(s *impl.State) { s.Room = nil },
 			func(s *impl.State) { s.Room = append(s.Room, rooms(41-len(s.Room), 1)...) },
@@ -256,8 +256,13 @@ func TestNoSafetyInAStateThatIsNotRight(t *testing.T) {
 				s.Trains[0].Path = []int{(s.Trains[0].At + 1) % 2}
 			},
 		},
-	} {
-		for i, fault := range faults {
+	}
+}
+
+// Each fault is laid into a state in which nobody can move, and into one in which all can.
+func TestNoSafetyInAStateThatIsNotRight(t *testing.T) {
+	for code, list := range faults() {
+		for i, fault := range list {
 			jam, open := circle(2), with(rooms(40, 1), []int{1, 2}, train(0), train(1))
 			fault(&jam)
 			if got := impl.StateOk(jam); got != code {
